@@ -3,6 +3,8 @@
 package sample
 
 import (
+	"iter"
+
 	"caltrop/api"
 	"caltrop/core"
 )
@@ -18,20 +20,32 @@ func Words(alphabet string, length int) []string {
 	return l
 }
 
+// Texts goes through all texts of some parts, up to so many, those of few parts
+// first.
+func Texts(parts []string, most int) iter.Seq[string] {
+	return func(yield func(text string) bool) {
+		texts := []string{""}
+		for i := range most + 1 {
+			var longer []string
+			for _, t := range texts {
+				if !yield(t) {
+					return
+				}
+				for _, part := range parts[:min(most-i, 1)*len(parts)] {
+					longer = append(longer, t+part)
+				}
+			}
+			texts = longer
+		}
+	}
+}
+
 // Cores hands on the cores of all patterns of some parts, up to so many, by all
 // modes, and tells how many these are.
 func Cores(parts []string, most int, each func(c *core.Node)) int {
 	n := 0
-	patterns := []string{""}
-	for i := range most + 1 {
-		var longer []string
-		for _, p := range patterns {
-			n += cores(p, each)
-			for _, part := range parts[:min(most-i, 1)*len(parts)] {
-				longer = append(longer, p+part)
-			}
-		}
-		patterns = longer
+	for p := range Texts(parts, most) {
+		n += cores(p, each)
 	}
 	return n
 }
